@@ -56,13 +56,13 @@ func TestDivModByNothing(t *testing.T) {
 // NT4: quotient times b and the rest are a, the rest below b.
 func TestDivModLaw(t *testing.T) {
 	eachPair(t, func(a, b nat.N) bool { return len(b) == 0 || parted(a, b) })
-	m := mixer(3)
+	m := mixer{3}
 	// Divisors that are close to a power of 2^32 make guesses that are too great.
 	for range 20000 {
 		a := m.number(7)
 		b := append(m.number(2), 0, 1<<31)
-		b[len(b)-2] = uint32(m.word() % 3)
-		if !parted(a, b) || !parted(append(a, 1<<31-1+uint32(m.word()%2)), b) {
+		b[len(b)-2] = uint32(m.Word() % 3)
+		if !parted(a, b) || !parted(append(a, 1<<31-1+uint32(m.Word()%2)), b) {
 			t.Fatalf("at %s, %s", brief(a), brief(b))
 		}
 	}

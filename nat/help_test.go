@@ -2,12 +2,12 @@ package nat_test
 
 import (
 	"encoding/binary"
-	"errors"
 	"math"
 	"math/big"
 	"slices"
 	"testing"
 
+	"tiller/aid"
 	"tiller/api"
 	"tiller/nat"
 )
@@ -60,18 +60,6 @@ func fromBig(b *big.Int) nat.N {
 	return a
 }
 
-// errno is the number of an error, 0 of none, -1 of one that has none.
-func errno(err error) int {
-	if err == nil {
-		return 0
-	}
-	var n api.Errno
-	if !errors.As(err, &n) {
-		return -1
-	}
-	return int(n)
-}
-
 // wantNumber tells whether an answer is the number that was asked for, beside no error.
 func wantNumber(t *testing.T, what string, got nat.N, err error, want nat.N) {
 	t.Helper()
@@ -83,7 +71,7 @@ func wantNumber(t *testing.T, what string, got nat.N, err error, want nat.N) {
 // wantError tells whether an answer is the error that was asked for, and nothing beside it.
 func wantError(t *testing.T, what string, got nat.N, err error, want api.Errno) {
 	t.Helper()
-	if errno(err) != int(want) || len(got) != 0 {
+	if aid.Errno(err) != int(want) || len(got) != 0 {
 		t.Errorf("%s: %s, %v; want %v", what, brief(got), err, want)
 	}
 }
@@ -97,32 +85,24 @@ func brief(a nat.N) string {
 	return text
 }
 
-// mixer makes the same odd numbers in every run.
-type mixer uint64
-
-func (m *mixer) word() uint64 {
-	*m += 0x9e3779b97f4a7c15
-	z := uint64(*m)
-	z = (z ^ z>>30) * 0xbf58476d1ce4e5b9
-	z = (z ^ z>>27) * 0x94d049bb133111eb
-	return z ^ z>>31
-}
+// mixer makes odd numbers, and numbers of this layer by them.
+type mixer struct{ aid.Mixer }
 
 // number is one of at most so many words: of odd ones, of full ones, of noughts, in turn by chance.
 func (m *mixer) number(most int) nat.N {
-	a := make(nat.N, m.word()%uint64(most+1))
+	a := make(nat.N, m.Word()%uint64(most+1))
 	for i := range a {
-		switch m.word() % 4 {
+		switch m.Word() % 4 {
 		case 0:
 			a[i] = full
 		case 1:
 			a[i] = 0
 		default:
-			a[i] = uint32(m.word())
+			a[i] = uint32(m.Word())
 		}
 	}
 	if len(a) > 0 {
-		a[len(a)-1] |= 1 << (m.word() % 32)
+		a[len(a)-1] |= 1 << (m.Word() % 32)
 	}
 	return a
 }
@@ -153,7 +133,7 @@ func eachPair(t *testing.T, try func(a, b nat.N) bool) {
 			}
 		}
 	}
-	m := mixer(1)
+	m := mixer{1}
 	for _, length := range slices.Concat(slices.Repeat([]int{2, 5, 12}, 4000), slices.Repeat([]int{200}, 100)) {
 		if a, b := m.number(length), m.number(length); !try(a, b) {
 			t.Fatalf("at %s, %s", brief(a), brief(b))

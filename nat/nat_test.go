@@ -6,6 +6,7 @@ import (
 	"slices"
 	"testing"
 
+	"tiller/aid"
 	"tiller/api"
 	"tiller/nat"
 )
@@ -47,7 +48,7 @@ func TestCheck(t *testing.T) {
 		}
 	}
 	for name, a := range noNumbers() {
-		if err := nat.Check(a); errno(err) != 1 {
+		if err := nat.Check(a); aid.Errno(err) != 1 {
 			t.Errorf("%s: %v", name, err)
 		}
 	}
@@ -60,7 +61,7 @@ func TestNoNumbers(t *testing.T) {
 		if got := nat.Len(wrong); got != 0 {
 			t.Errorf("%s: Len %d", name, got)
 		}
-		if text, err := nat.Decimal(wrong); text != "" || errno(err) != 1 {
+		if text, err := nat.Decimal(wrong); text != "" || aid.Errno(err) != 1 {
 			t.Errorf("%s: Decimal %q, %v", name, text, err)
 		}
 		for _, n := range []int{-1, 0, 1, 262144, math.MaxInt} {
@@ -77,7 +78,7 @@ func TestNoNumbers(t *testing.T) {
 
 func refused(t *testing.T, name string, a, b nat.N) {
 	t.Helper()
-	if order, err := nat.Cmp(a, b); order != 0 || errno(err) != 1 {
+	if order, err := nat.Cmp(a, b); order != 0 || aid.Errno(err) != 1 {
 		t.Errorf("%s: Cmp %d, %v", name, order, err)
 	}
 	got, err := nat.Add(a, b)
@@ -145,7 +146,7 @@ func TestAdd(t *testing.T) {
 // holds tells whether an answer is the number that was worked out, or says that it is too long.
 func holds(got nat.N, err error, want *big.Int) bool {
 	if want.BitLen() > 262144 {
-		return len(got) == 0 && errno(err) == 2
+		return len(got) == 0 && aid.Errno(err) == 2
 	}
 	return err == nil && slices.Equal(got, fromBig(want))
 }
@@ -175,7 +176,7 @@ func TestSub(t *testing.T) {
 	eachPair(t, func(a, b nat.N) bool {
 		got, err := nat.Sub(a, b)
 		if toBig(a).Cmp(toBig(b)) < 0 {
-			return len(got) == 0 && errno(err) == 4
+			return len(got) == 0 && aid.Errno(err) == 4
 		}
 		return err == nil && slices.Equal(got, fromBig(new(big.Int).Sub(toBig(a), toBig(b))))
 	})

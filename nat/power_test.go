@@ -128,7 +128,7 @@ func TestShlErrors(t *testing.T) {
 
 // NT2, Shl and Len: against other means.
 func TestShlAll(t *testing.T) {
-	m := mixer(5)
+	m := mixer{5}
 	all := corners()
 	for range 200 {
 		all = append(all, m.number(9))

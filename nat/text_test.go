@@ -122,7 +122,7 @@ func TestParseLong(t *testing.T) {
 
 // NT4: Parse of Decimal is the number; both against other means.
 func TestTextLaw(t *testing.T) {
-	m := mixer(7)
+	m := mixer{7}
 	all := append(corners(), words(2076, full), power(66438))
 	for range 3000 {
 		all = append(all, m.number(12))

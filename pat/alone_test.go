@@ -4,6 +4,7 @@ import (
 	"math"
 	"testing"
 
+	"tiller/aid"
 	"tiller/pat"
 )
 
@@ -32,15 +33,15 @@ func ask(p, sign uint64, x pat.Parts, s string) answers {
 func TestTotalAndAlone(t *testing.T) {
 	texts := []string{"", "0", "f", "7ff8000000000000", "ffffffffffffffff", "00000000000000000", "G", "\xff\xfe", "é"}
 	numbers := []int{math.MinInt, -1076, -1075, -1074, -1, 0, 1, 2, 3, 4, 5, 6, 971, 972, math.MaxInt}
-	m := mixer(11)
+	m := aid.Mixer(11)
 	for _, e := range bothSigns() {
 		for _, class := range numbers {
 			for _, exp := range numbers {
 				x := pat.Parts{Minus: e.x.Minus, Class: class, Exp: exp, Sig: e.x.Sig}
-				s := texts[m.word()%uint64(len(texts))]
-				sign := m.word()
+				s := texts[m.Word()%uint64(len(texts))]
+				sign := m.Word()
 				first := ask(e.p, sign, x, s)
-				ask(m.word(), m.word(), pat.Take(m.word()), pat.Hex(m.word()))
+				ask(m.Word(), m.Word(), pat.Take(m.Word()), pat.Hex(m.Word()))
 				if again := ask(e.p, sign, x, s); again != first {
 					t.Fatalf("%#x, %#x, %+v, %q: %+v, then %+v", e.p, sign, x, s, first, again)
 				}

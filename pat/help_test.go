@@ -1,9 +1,9 @@
 package pat_test
 
 import (
-	"errors"
 	"testing"
 
+	"tiller/aid"
 	"tiller/api"
 	"tiller/pat"
 )
@@ -66,18 +66,6 @@ func bothSigns() []edge {
 	return all
 }
 
-// errno is the number of an error, 0 of none, -1 of one that has none.
-func errno(err error) int {
-	if err == nil {
-		return 0
-	}
-	var n api.Errno
-	if !errors.As(err, &n) {
-		return -1
-	}
-	return int(n)
-}
-
 // wantPattern tells whether an answer is the pattern that was asked for, beside no error.
 func wantPattern(t *testing.T, what string, got uint64, err error, want uint64) {
 	t.Helper()
@@ -89,28 +77,17 @@ func wantPattern(t *testing.T, what string, got uint64, err error, want uint64) 
 // wantError tells whether an answer is the error that was asked for, and nothing beside it.
 func wantError(t *testing.T, what string, got uint64, err error, want api.Errno) {
 	t.Helper()
-	if errno(err) != int(want) || got != 0 {
+	if aid.Errno(err) != int(want) || got != 0 {
 		t.Errorf("%s: %#x, %v; want %v", what, got, err, want)
 	}
-}
-
-// mixer makes the same odd numbers in every run.
-type mixer uint64
-
-func (m *mixer) word() uint64 {
-	*m += 0x9e3779b97f4a7c15
-	z := uint64(*m)
-	z = (z ^ z>>30) * 0xbf58476d1ce4e5b9
-	z = (z ^ z>>27) * 0x94d049bb133111eb
-	return z ^ z>>31
 }
 
 // eachPattern calls try with patterns of every exponent and both signs, of edge fractions and of odd ones.
 func eachPattern(t *testing.T, try func(p uint64) bool) {
 	t.Helper()
-	m := mixer(7)
+	m := aid.Mixer(7)
 	for exponent := range uint64(2048) {
-		for _, f := range []uint64{0, 1, 2, half - 1, half, half + 1, allFrac - 1, allFrac, m.word() & allFrac, m.word() & allFrac} {
+		for _, f := range []uint64{0, 1, 2, half - 1, half, half + 1, allFrac - 1, allFrac, m.Word() & allFrac, m.Word() & allFrac} {
 			for _, sign := range []uint64{0, minus} {
 				if p := sign + exponent<<52 + f; !try(p) {
 					t.Fatalf("at %#x", p)
@@ -119,7 +96,7 @@ func eachPattern(t *testing.T, try func(p uint64) bool) {
 		}
 	}
 	for range 50_000 {
-		if p := m.word(); !try(p) {
+		if p := m.Word(); !try(p) {
 			t.Fatalf("at %#x", p)
 		}
 	}

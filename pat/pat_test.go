@@ -6,6 +6,7 @@ import (
 	"math/big"
 	"testing"
 
+	"tiller/aid"
 	"tiller/api"
 	"tiller/pat"
 )
@@ -207,7 +208,7 @@ func TestTakeOfMake(t *testing.T) {
 			if err == nil && pat.Take(q) != x {
 				return false
 			}
-			if err != nil && (q != 0 || errno(err) != int(api.ErrArg) || may(x)) {
+			if err != nil && (q != 0 || aid.Errno(err) != int(api.ErrArg) || may(x)) {
 				return false
 			}
 		}

@@ -4,6 +4,7 @@ import (
 	"math"
 	"testing"
 
+	"tiller/aid"
 	"tiller/api"
 	"tiller/rnd"
 	"tiller/wide"
@@ -31,16 +32,16 @@ func TestTotalAndAlone(t *testing.T) {
 	exps := []int{math.MinInt, math.MinInt + 1, math.MinInt + 255, math.MinInt + 1074, -2257, -2001, -2000, -1999, -1400, -1331, -1330, -1127, -1076, -1075, -1074, -1073, -257, -256, -255, -64, -53, -52, -1,
 		0, 1, 52, 53, 255, 256, 767, 768, 769, 970, 971, 972, 1023, 1024, 1025, 1999, 2000, 2001, math.MaxInt - 1075, math.MaxInt - 256, math.MaxInt - 1, math.MaxInt}
 	sigs := []wide.W{{}, wide.Of(1), wide.Of(3), wide.Of(1<<53 - 1), wide.Of(1 << 53), wide.Of(full), power(64), power(128), power(255), most, {1, 2, 3, 4}}
-	all := append(modes(), noModes()...)
-	m := mixer(19)
+	all := aid.AllModes()
+	m := mixer{19}
 	for _, exp := range exps {
 		for _, sig := range sigs {
 			for _, mode := range all {
 				for _, x := range []rnd.Num{{}, {More: true}, {Minus: true}, {Minus: true, More: true}} {
 					x.Exp, x.Sig = exp, sig
-					y, p := x, m.word()
+					y, p := x, m.Word()
 					first := ask(y, p, mode)
-					ask(m.num(int(m.word()%3000)-1500), m.word(), api.Mode(m.word()))
+					ask(m.num(int(m.Word()%3000)-1500), m.Word(), api.Mode(m.Word()))
 					if again := ask(y, p, mode); again != first {
 						t.Fatalf("%+v, %#x, %d: %+v, then %+v", x, p, mode, first, again)
 					}

@@ -1,11 +1,11 @@
 package rnd_test
 
 import (
-	"errors"
 	"math"
 	"math/big"
 	"testing"
 
+	"tiller/aid"
 	"tiller/api"
 	"tiller/rnd"
 	"tiller/wide"
@@ -19,14 +19,6 @@ const (
 
 // most is 2^256 - 1.
 var most = wide.W{full, full, full, full}
-
-// modes are those that there are.
-func modes() []api.Mode { return []api.Mode{api.Even, api.Away, api.Zero, api.Up, api.Down} }
-
-// noModes are some that there are not.
-func noModes() []api.Mode {
-	return []api.Mode{math.MinInt, -256, -2, -1, 5, 6, 7, 8, 256, 257, 1 << 32, 1<<32 + 2, math.MaxInt}
-}
 
 // power is 2^n, made without the calls of wide.
 func power(n int) wide.W {
@@ -163,35 +155,15 @@ func checkWhole(t *testing.T, x rnd.Num, m api.Mode) {
 	}
 }
 
-// errno is the number of an error, 0 of none, -1 of one that has none.
-func errno(err error) int {
-	if err == nil {
-		return 0
-	}
-	var n api.Errno
-	if !errors.As(err, &n) {
-		return -1
-	}
-	return int(n)
-}
-
-// mixer makes the same odd numbers in every run.
-type mixer uint64
-
-func (m *mixer) word() uint64 {
-	*m += 0x9e3779b97f4a7c15
-	z := uint64(*m)
-	z = (z ^ z>>30) * 0xbf58476d1ce4e5b9
-	z = (z ^ z>>27) * 0x94d049bb133111eb
-	return z ^ z>>31
-}
+// mixer makes odd numbers, and numbers of this layer by them.
+type mixer struct{ aid.Mixer }
 
 // wide is a number of just so many bits.
 func (m *mixer) wide(bits int) wide.W {
 	if bits == 0 {
 		return wide.W{}
 	}
-	w, mask, top := wide.W{m.word(), m.word(), m.word(), m.word()}, below(bits), power(bits-1)
+	w, mask, top := wide.W{m.Word(), m.Word(), m.Word(), m.Word()}, below(bits), power(bits-1)
 	for i := range w {
 		w[i] = w[i]&mask[i] | top[i]
 	}
@@ -204,13 +176,13 @@ func (m *mixer) nearHalf(bits, down int) wide.W {
 	for i := range w {
 		w[i] &^= mask[i]
 	}
-	if down > 0 && m.word()%4 > 0 {
+	if down > 0 && m.Word()%4 > 0 {
 		middle := power(down - 1)
 		for i := range w {
 			w[i] |= middle[i]
 		}
 	}
-	change := m.word() % 3
+	change := m.Word() % 3
 	switch {
 	case change == 1 && w != most:
 		w, _ = wide.Add(w, wide.Of(1))
@@ -222,24 +194,24 @@ func (m *mixer) nearHalf(bits, down int) wide.W {
 
 // num is a number of either sign whose highest bit is some 2^n, of any length; most lie where Round decides.
 func (m *mixer) num(n int) rnd.Num {
-	bits := int(m.word() % 257)
+	bits := int(m.Word() % 257)
 	sig := m.wide(bits)
-	if m.word()%2 == 0 {
+	if m.Word()%2 == 0 {
 		// Where the quantum lies, for a size that has more bits than that.
 		down := max(bits-53, -1074-(n-bits+1), 0)
 		if down <= bits {
 			sig = m.nearHalf(bits, down)
 		}
 	}
-	return rnd.Num{Minus: m.word()%2 == 0, Exp: n - bits + 1, Sig: sig, More: m.word()%2 == 0}
+	return rnd.Num{Minus: m.Word()%2 == 0, Exp: n - bits + 1, Sig: sig, More: m.Word()%2 == 0}
 }
 
 // eachPattern calls try with finite patterns of every exponent and both signs, of edge fractions and of odd ones.
 func eachPattern(t *testing.T, try func(p uint64) bool) {
 	t.Helper()
-	m := mixer(7)
+	m := mixer{7}
 	for exponent := range uint64(2047) {
-		for _, f := range []uint64{0, 1, 2, 1<<51 - 1, 1 << 51, 1<<51 + 1, 1<<52 - 2, 1<<52 - 1, m.word() >> 12, m.word() >> 12} {
+		for _, f := range []uint64{0, 1, 2, 1<<51 - 1, 1 << 51, 1<<51 + 1, 1<<52 - 2, 1<<52 - 1, m.Word() >> 12, m.Word() >> 12} {
 			for _, sign := range []uint64{0, minus} {
 				if p := sign + exponent<<52 + f; !try(p) {
 					t.Fatalf("at %#x", p)

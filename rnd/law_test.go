@@ -5,6 +5,7 @@ import (
 	"slices"
 	"testing"
 
+	"tiller/aid"
 	"tiller/api"
 	"tiller/rnd"
 	"tiller/wide"
@@ -39,7 +40,7 @@ func TestOf(t *testing.T) {
 func TestOfNone(t *testing.T) {
 	for _, p := range []uint64{inf, inf + 1, 0x7ff4000000000000, 0x7ff7ffffffffffff, 0x7ff8000000000000, 0x7ff8000000000001, 0x7fffffffffffffff} {
 		for _, sign := range []uint64{0, minus} {
-			if x, err := rnd.Of(p + sign); x != (rnd.Num{}) || errno(err) != 1 {
+			if x, err := rnd.Of(p + sign); x != (rnd.Num{}) || aid.Errno(err) != 1 {
 				t.Errorf("Of(%#x): %+v, %v; want error 1", p+sign, x, err)
 			}
 		}
@@ -56,11 +57,11 @@ func TestOfAll(t *testing.T) {
 
 // RN3: what a pattern is made of is rounded to it, by every mode, however many bits it is told with.
 func TestRoundOfOf(t *testing.T) {
-	m := mixer(13)
-	all := append(modes(), noModes()...)
+	m := mixer{13}
+	all := aid.AllModes()
 	eachPattern(t, func(p uint64) bool {
 		x, _ := rnd.Of(p)
-		up := int(m.word() % 204)
+		up := int(m.Word() % 204)
 		longer := rnd.Num{Minus: x.Minus, Exp: x.Exp - up, Sig: wide.Shl(x.Sig, up)}
 		shorter := rnd.Num{Minus: x.Minus, Exp: x.Exp + 1, More: wide.Bit(x.Sig, 0) != 0}
 		shorter.Sig, _ = wide.Shr(x.Sig, 1)
@@ -95,7 +96,7 @@ func value(x rnd.Num) *big.Int {
 
 // crowd are numbers of both signs, many of them close together: next to the edges, next to patterns and halfway between those, and odd ones.
 func crowd() []rnd.Num {
-	m := mixer(17)
+	m := mixer{17}
 	var all []rnd.Num
 	for n := -1090; n <= 1034; n++ {
 		count := 1
@@ -137,7 +138,7 @@ func TestRoundKeepsOrder(t *testing.T) {
 		all = append(all, placed{x, value(x)})
 	}
 	slices.SortStableFunc(all, func(a, b placed) int { return a.v.Cmp(b.v) })
-	for _, m := range append(modes(), -1) {
+	for _, m := range append(aid.Modes(), -1) {
 		for i := range all[1:] {
 			low, _ := rnd.Round(all[i].x, m)
 			high, _ := rnd.Round(all[i+1].x, m)

@@ -4,6 +4,7 @@ import (
 	"math"
 	"testing"
 
+	"tiller/aid"
 	"tiller/api"
 	"tiller/rnd"
 	"tiller/wide"
@@ -57,7 +58,7 @@ func play(t *testing.T, cases []roundCase) {
 			x.Minus = true
 			wantRound(t, c.what, x, api.Mode(m), answer{mirror[m].p + minus, mirror[m].f})
 		}
-		for _, m := range noModes() {
+		for _, m := range aid.NoModes() {
 			wantRound(t, c.what, c.x, m, c.want[api.Even])
 		}
 	}
@@ -242,7 +243,7 @@ func TestRoundSmallAll(t *testing.T) {
 		for sig := range uint64(300) {
 			for _, x := range []rnd.Num{{}, {More: true}, {Minus: true}, {Minus: true, More: true}} {
 				x.Exp, x.Sig = exp, wide.Of(sig)
-				for _, m := range modes() {
+				for _, m := range aid.Modes() {
 					checkRound(t, x, m)
 				}
 			}
@@ -252,7 +253,7 @@ func TestRoundSmallAll(t *testing.T) {
 
 // RN1, all of it, word for word: sizes of all lengths with every highest bit, most of them next to where the answer changes.
 func TestRoundAll(t *testing.T) {
-	m := mixer(3)
+	m := mixer{3}
 	for n := -1400; n <= 1400; n++ {
 		count := 8
 		if n > -1085 && n < -1015 || n > 1015 && n < 1030 {
@@ -260,7 +261,7 @@ func TestRoundAll(t *testing.T) {
 		}
 		for range count {
 			x := m.num(n)
-			for _, mode := range append(modes(), noModes()[m.word()%13]) {
+			for _, mode := range append(aid.Modes(), m.Mode()) {
 				checkRound(t, x, mode)
 			}
 		}

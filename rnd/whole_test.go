@@ -4,6 +4,7 @@ import (
 	"math"
 	"testing"
 
+	"tiller/aid"
 	"tiller/api"
 	"tiller/rnd"
 	"tiller/wide"
@@ -65,7 +66,7 @@ func TestWhole(t *testing.T) {
 			wantWhole(t, c.what, c.x, api.Mode(m), rnd.Num{Sig: c.want[m]}, true)
 			wantWhole(t, c.what, x, api.Mode(m), rnd.Num{Minus: true, Sig: mirror[m]}, true)
 		}
-		for _, m := range noModes() {
+		for _, m := range aid.NoModes() {
 			wantWhole(t, c.what, c.x, m, rnd.Num{Sig: c.want[api.Even]}, true)
 			wantWhole(t, c.what, x, m, rnd.Num{Minus: true, Sig: c.want[api.Even]}, true)
 		}
@@ -78,7 +79,7 @@ func TestWholeGreatest(t *testing.T) {
 		x := rnd.Num{Minus: below0, Sig: most, More: true}
 		up := rnd.Num{Minus: below0, Exp: 1, Sig: power(255)}
 		down := rnd.Num{Minus: below0, Sig: most}
-		for _, m := range append(noModes(), api.Even, api.Away) {
+		for _, m := range append(aid.NoModes(), api.Even, api.Away) {
 			wantWhole(t, "2^256 but a half", x, m, up, true)
 		}
 		wantWhole(t, "2^256 but a half", x, api.Zero, down, true)
@@ -106,7 +107,7 @@ func TestWholeStays(t *testing.T) {
 		{Exp: math.MaxInt, Sig: most, More: true},
 	} {
 		for _, x.Minus = range []bool{false, true} {
-			for _, m := range append(modes(), noModes()...) {
+			for _, m := range aid.AllModes() {
 				wantWhole(t, "whole", x, m, x, false)
 			}
 		}
@@ -132,7 +133,7 @@ func TestWholeSame(t *testing.T) {
 	} {
 		for _, below0 := range []bool{false, true} {
 			c.x.Minus = below0
-			for _, m := range append(modes(), noModes()...) {
+			for _, m := range aid.AllModes() {
 				wantWhole(t, "the same", c.x, m, rnd.Num{Minus: below0, Sig: c.want}, false)
 			}
 		}
@@ -145,7 +146,7 @@ func TestWholeFar(t *testing.T) {
 		for _, exp := range []int{-258, -259, -300, -512, -1074, -1999, -2000, -2001, -4096, -100_000, -1 << 31, -1 << 32, math.MinInt + 256, math.MinInt + 1, math.MinInt} {
 			for _, below0 := range []bool{false, true} {
 				x.Exp, x.Minus = exp, below0
-				for _, m := range append(modes(), noModes()...) {
+				for _, m := range aid.AllModes() {
 					want := rnd.Num{Minus: below0}
 					if m == api.Up && !below0 || m == api.Down && below0 {
 						want.Sig = wide.Of(1)
@@ -159,15 +160,15 @@ func TestWholeFar(t *testing.T) {
 
 // RN2, Whole, all of it, word for word: numbers of all lengths, with every number of bits behind the point.
 func TestWholeAll(t *testing.T) {
-	m := mixer(5)
+	m := mixer{5}
 	for exp := -300; exp <= 3; exp++ {
-		for bits := 0; bits <= 256; bits += 1 + int(m.word()%7) {
+		for bits := 0; bits <= 256; bits += 1 + int(m.Word()%7) {
 			sig := m.wide(bits)
-			if down := -exp; down >= 0 && down <= bits && m.word()%4 > 0 {
+			if down := -exp; down >= 0 && down <= bits && m.Word()%4 > 0 {
 				sig = m.nearHalf(bits, down)
 			}
-			x := rnd.Num{Minus: m.word()%2 == 0, Exp: exp, Sig: sig, More: m.word()%2 == 0}
-			for _, mode := range append(modes(), noModes()[m.word()%13]) {
+			x := rnd.Num{Minus: m.Word()%2 == 0, Exp: exp, Sig: sig, More: m.Word()%2 == 0}
+			for _, mode := range append(aid.Modes(), m.Mode()) {
 				checkWhole(t, x, mode)
 			}
 		}
@@ -180,7 +181,7 @@ func TestWholeSmallAll(t *testing.T) {
 		for sig := range uint64(300) {
 			for _, x := range []rnd.Num{{}, {More: true}, {Minus: true}, {Minus: true, More: true}} {
 				x.Exp, x.Sig = exp, wide.Of(sig)
-				for _, m := range modes() {
+				for _, m := range aid.Modes() {
 					checkWhole(t, x, m)
 				}
 			}

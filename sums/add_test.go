@@ -3,6 +3,7 @@ package sums_test
 import (
 	"testing"
 
+	"tiller/aid"
 	"tiller/api"
 	"tiller/pat"
 	"tiller/rnd"
@@ -56,7 +57,7 @@ func play(t *testing.T, cases []addCase) {
 			wantSum(t, c.what, c.a, c.b, api.Mode(m), c.want[m])
 			wantSum(t, c.what, c.a^minus, c.b^minus, api.Mode(m), answer{mirror[m].p ^ minus, mirror[m].f})
 		}
-		for _, m := range noModes() {
+		for _, m := range aid.NoModes() {
 			wantSum(t, c.what, c.a, c.b, m, c.want[api.Even])
 		}
 	}
@@ -77,7 +78,7 @@ func TestAddNoNumber(t *testing.T) {
 		t.Helper()
 		for _, sign := range []uint64{0, minus} {
 			for _, other := range []uint64{0, minus} {
-				for _, m := range allModes() {
+				for _, m := range aid.AllModes() {
 					wantSum(t, "no number", a+sign, b+other, m, answer{nan, f})
 				}
 			}
@@ -105,7 +106,7 @@ func TestAddEndless(t *testing.T) {
 			play(t, []addCase{{"Endless and finite", inf, p + sign, same(inf, none)}})
 		}
 	}
-	for _, m := range allModes() {
+	for _, m := range aid.AllModes() {
 		wantSum(t, "Endless and Endless", inf, inf, m, answer{inf, none})
 		wantSum(t, "-Endless and -Endless", inf+minus, inf+minus, m, answer{inf + minus, none})
 		wantSum(t, "Endless and -Endless", inf, inf+minus, m, answer{nan, api.Invalid})
@@ -114,7 +115,7 @@ func TestAddEndless(t *testing.T) {
 
 // SU2 and the words: the sign of a sum of 0.
 func TestAddNought(t *testing.T) {
-	for _, m := range allModes() {
+	for _, m := range aid.AllModes() {
 		mixed := answer{0, none}
 		if m == api.Down {
 			mixed.p = minus
@@ -232,10 +233,10 @@ func wanted(a, b uint64, m api.Mode) answer {
 
 // SU2, all of it of finite patterns, word for word.
 func TestAddAll(t *testing.T) {
-	m := mixer(3)
+	m := mixer{3}
 	for range 60_000 {
 		a, b := m.pair()
-		for _, mode := range append(modes(), noModes()[m.below(13)]) {
+		for _, mode := range append(aid.Modes(), m.Mode()) {
 			wantSum(t, "all", a, b, mode, wanted(a, b, mode))
 		}
 		if t.Failed() {
@@ -246,10 +247,10 @@ func TestAddAll(t *testing.T) {
 
 // SU3: sums are the same both ways round, of patterns of all classes, and what is added to 0 stays, but a 0's sign.
 func TestAddLaws(t *testing.T) {
-	m := mixer(5)
+	m := mixer{5}
 	for range 50_000 {
-		a, b := m.word(), m.word()
-		mode := allModes()[m.below(18)]
+		a, b := m.Word(), m.Word()
+		mode := m.Mode()
 		p, f := sums.Add(a, b, mode)
 		if q, g := sums.Add(b, a, mode); q != p || g != f {
 			t.Fatalf("Add(%#x, %#x, %d): %#x, %d; turned round %#x, %d", a, b, mode, p, f, q, g)

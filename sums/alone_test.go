@@ -35,17 +35,17 @@ func TestTotalAndAlone(t *testing.T) {
 			}
 		}
 	}
-	m := mixer(19)
+	m := mixer{19}
 	for _, x := range all {
 		for _, y := range all {
-			mode := allModes()[m.below(18)]
-			a, b := m.word(), m.word()
-			if m.below(2) == 0 {
+			mode := m.Mode()
+			a, b := m.Word(), m.Word()
+			if m.Below(2) == 0 {
 				a |= inf
 			}
 			c, d := x, y
 			first := ask(c, d, a, b, mode)
-			ask(y, rnd.Num{Sig: wide.Of(m.word())}, m.word(), a, api.Mode(m.word()))
+			ask(y, rnd.Num{Sig: wide.Of(m.Word())}, m.Word(), a, api.Mode(m.Word()))
 			if again := ask(c, d, a, b, mode); again != first {
 				t.Fatalf("%+v, %+v, %#x, %#x, %d: %+v, then %+v", x, y, a, b, mode, first, again)
 			}

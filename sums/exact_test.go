@@ -4,6 +4,7 @@ import (
 	"math"
 	"testing"
 
+	"tiller/aid"
 	"tiller/api"
 	"tiller/rnd"
 	"tiller/sums"
@@ -19,7 +20,7 @@ func checkExact(t *testing.T, x, y rnd.Num, m api.Mode) {
 		if err != nil {
 			t.Fatalf("Exact(%+v, %+v, %d): %v", x, y, m, err)
 		}
-		for _, mode := range modes() {
+		for _, mode := range aid.Modes() {
 			want := answer{zeroOf(x, y, m), none}
 			if v.Sign() != 0 {
 				want.p, want.f = rounded(v, exp, mode)
@@ -67,8 +68,8 @@ func TestExactErrors(t *testing.T) {
 	}
 	right := []rnd.Num{{}, {Sig: wide.Of(1)}, {Exp: 100_000, Sig: wide.W{full, full}}, {Exp: -100_000}}
 	try := func(x, y rnd.Num) {
-		for _, m := range allModes() {
-			if sum, err := sums.Exact(x, y, m); sum != (rnd.Num{}) || errno(err) != 1 {
+		for _, m := range aid.AllModes() {
+			if sum, err := sums.Exact(x, y, m); sum != (rnd.Num{}) || aid.Errno(err) != 1 {
 				t.Errorf("Exact(%+v, %+v, %d): %+v, %v; want error 1", x, y, m, sum, err)
 			}
 		}
@@ -114,7 +115,7 @@ func wantNought(t *testing.T, x, y rnd.Num, m api.Mode, below0 bool) {
 func TestExactNought(t *testing.T) {
 	noughts := []rnd.Num{{}, {Exp: 77}, {Exp: 100_000}, {Exp: -100_000}}
 	sizes := []rnd.Num{{Sig: wide.Of(1)}, {Exp: -1074, Sig: wide.Of(1)}, {Exp: -100_000, Sig: wide.Of(1)}, {Exp: 100_000, Sig: wide.W{full, full}}}
-	for _, m := range allModes() {
+	for _, m := range aid.AllModes() {
 		for _, x := range append(noughts, sizes...) {
 			y := x
 			y.Minus = true
@@ -156,11 +157,11 @@ func TestExactHalfway(t *testing.T) {
 
 // SU1, all of it, word for word: numbers of all lengths, with every distance between them that matters.
 func TestExactAll(t *testing.T) {
-	m := mixer(11)
+	m := mixer{11}
 	for distance := -400; distance <= 400; distance++ {
 		for range 12 {
-			x := rnd.Num{Exp: m.below(2300) - 1300, Sig: m.sig(m.below(129))}
-			y := rnd.Num{Exp: x.Exp + distance, Sig: m.sig(m.below(129))}
+			x := rnd.Num{Exp: m.Below(2300) - 1300, Sig: m.sig(m.Below(129))}
+			y := rnd.Num{Exp: x.Exp + distance, Sig: m.sig(m.Below(129))}
 			checkSigns(t, x, y)
 		}
 	}
@@ -168,23 +169,23 @@ func TestExactAll(t *testing.T) {
 
 // SU1: differences of numbers close together.
 func TestExactClose(t *testing.T) {
-	m := mixer(13)
+	m := mixer{13}
 	for range 4000 {
-		length := 1 + m.below(128)
-		x := rnd.Num{Exp: m.below(2300) - 1300, Sig: m.sig(length)}
+		length := 1 + m.Below(128)
+		x := rnd.Num{Exp: m.Below(2300) - 1300, Sig: m.sig(length)}
 		y := x
-		y.Sig[0] ^= uint64(m.below(8))
-		y.Sig[length/128] ^= 1 << uint(m.below(min(length, 64)))
+		y.Sig[0] ^= uint64(m.Below(8))
+		y.Sig[length/128] ^= 1 << uint(m.Below(min(length, 64)))
 		checkSigns(t, x, y)
 	}
 }
 
 // SU1: numbers far apart, up to all that may be.
 func TestExactFar(t *testing.T) {
-	m := mixer(17)
+	m := mixer{17}
 	for range 60 {
-		x := rnd.Num{Exp: m.below(200_001) - 100_000, Sig: m.sig(m.below(129))}
-		y := rnd.Num{Exp: m.below(200_001) - 100_000, Sig: m.sig(m.below(129))}
+		x := rnd.Num{Exp: m.Below(200_001) - 100_000, Sig: m.sig(m.Below(129))}
+		y := rnd.Num{Exp: m.Below(200_001) - 100_000, Sig: m.sig(m.Below(129))}
 		checkSigns(t, x, y)
 	}
 }

@@ -1,10 +1,10 @@
 package sums_test
 
 import (
-	"errors"
 	"math"
 	"math/big"
 
+	"tiller/aid"
 	"tiller/api"
 	"tiller/pat"
 	"tiller/rnd"
@@ -29,16 +29,6 @@ const (
 	loud     = 0x7ff0000000000001
 	quantum  = 1 << 52 // one step of the exponent, as it stands in a pattern
 )
-
-// modes are those that there are.
-func modes() []api.Mode { return []api.Mode{api.Even, api.Away, api.Zero, api.Up, api.Down} }
-
-// noModes are some that there are not.
-func noModes() []api.Mode {
-	return []api.Mode{math.MinInt, -256, -2, -1, 5, 6, 7, 8, 256, 260, 1 << 32, 1<<32 + 4, math.MaxInt}
-}
-
-func allModes() []api.Mode { return append(modes(), noModes()...) }
 
 // bits is 2^high + 2^low, or 2^high, if both are the same.
 func bits(high, low int) wide.W {
@@ -157,41 +147,18 @@ func rounded(v *big.Int, exp int, m api.Mode) (uint64, api.Flags) {
 	return pattern(count, q, below0), off
 }
 
-// errno is the number of an error, 0 of none, -1 of one that has none.
-func errno(err error) int {
-	if err == nil {
-		return 0
-	}
-	var n api.Errno
-	if !errors.As(err, &n) {
-		return -1
-	}
-	return int(n)
-}
-
-// mixer makes the same odd numbers in every run.
-type mixer uint64
-
-func (m *mixer) word() uint64 {
-	*m += 0x9e3779b97f4a7c15
-	z := uint64(*m)
-	z = (z ^ z>>30) * 0xbf58476d1ce4e5b9
-	z = (z ^ z>>27) * 0x94d049bb133111eb
-	return z ^ z>>31
-}
-
-// below is a number from 0 to n - 1.
-func (m *mixer) below(n int) int { return int(m.word() % uint64(n)) }
+// mixer makes odd numbers, and numbers of this layer by them.
+type mixer struct{ aid.Mixer }
 
 // sig is a number of just so many bits, up to 128; half of them have few bits set, at both ends.
 func (m *mixer) sig(length int) wide.W {
 	if length == 0 {
 		return wide.W{}
 	}
-	if m.below(2) == 0 {
-		return bits(length-1, m.below(length))
+	if m.Below(2) == 0 {
+		return bits(length-1, m.Below(length))
 	}
-	w := wide.W{m.word(), m.word()}
+	w := wide.W{m.Word(), m.Word()}
 	w, _ = wide.Shr(w, 128-length)
 	top := bits(length-1, length-1)
 	return wide.W{w[0] | top[0], w[1] | top[1]}
@@ -199,24 +166,24 @@ func (m *mixer) sig(length int) wide.W {
 
 // fraction is one of a pattern; many have long rows of equal bits.
 func (m *mixer) fraction() uint64 {
-	f := m.word()
-	switch m.below(4) {
+	f := m.Word()
+	switch m.Below(4) {
 	case 0:
-		f &= full << uint(m.below(65))
+		f &= full << uint(m.Below(65))
 	case 1:
-		f |= full >> uint(m.below(65))
+		f |= full >> uint(m.Below(65))
 	}
 	return f >> 12
 }
 
 // pair are two finite patterns of any signs, often of exponents near each other.
 func (m *mixer) pair() (uint64, uint64) {
-	e := m.below(2047)
-	d := m.below(2047)
-	if m.below(8) > 0 {
-		d = min(max(e+m.below(141)-70, 0), 2046)
+	e := m.Below(2047)
+	d := m.Below(2047)
+	if m.Below(8) > 0 {
+		d = min(max(e+m.Below(141)-70, 0), 2046)
 	}
-	a := uint64(e)<<52 + m.fraction() + m.word()&minus
-	b := uint64(d)<<52 + m.fraction() + m.word()&minus
+	a := uint64(e)<<52 + m.fraction() + m.Word()&minus
+	b := uint64(d)<<52 + m.fraction() + m.Word()&minus
 	return a, b
 }

@@ -100,7 +100,7 @@ func TestDivModLaw(t *testing.T) {
 
 // WD4: of what is next to a multiple.
 func TestDivModNextToMultiples(t *testing.T) {
-	m := mixer(3)
+	m := mixer{3}
 	for range 50000 {
 		a, b := m.wide(), m.wide()
 		if b == wide.Of(0) {

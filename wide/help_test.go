@@ -5,6 +5,7 @@ import (
 	"math/big"
 	"testing"
 
+	"tiller/aid"
 	"tiller/wide"
 )
 
@@ -50,21 +51,13 @@ func fromBig(b *big.Int) wide.W {
 	return w
 }
 
-// mixer makes the same odd numbers in every run.
-type mixer uint64
-
-func (m *mixer) word() uint64 {
-	*m += 0x9e3779b97f4a7c15
-	z := uint64(*m)
-	z = (z ^ z>>30) * 0xbf58476d1ce4e5b9
-	z = (z ^ z>>27) * 0x94d049bb133111eb
-	return z ^ z>>31
-}
+// mixer makes odd numbers, and numbers of this layer by them.
+type mixer struct{ aid.Mixer }
 
 // wide is a number of any length: all lengths are as likely.
 func (m *mixer) wide() wide.W {
-	w := wide.W{m.word(), m.word(), m.word(), m.word()}
-	mask := below(int(m.word() % 257))
+	w := wide.W{m.Word(), m.Word(), m.Word(), m.Word()}
+	mask := below(int(m.Word() % 257))
 	for i := range w {
 		w[i] &= mask[i]
 	}
@@ -97,7 +90,7 @@ func eachPair(t *testing.T, try func(a, b wide.W) bool) {
 			}
 		}
 	}
-	m := mixer(1)
+	m := mixer{1}
 	for range 50000 {
 		if !try(m.wide(), m.wide()) {
 			t.FailNow()
@@ -114,7 +107,7 @@ func eachOne(t *testing.T, try func(a wide.W) bool) {
 		above[0] |= 1
 		all = append(all, below(n), power(n), above)
 	}
-	m := mixer(2)
+	m := mixer{2}
 	for range 2000 {
 		all = append(all, m.wide())
 	}
