@@ -51,3 +51,15 @@ func (m *Mixer) Mode() api.Mode {
 	all := AllModes()
 	return all[m.Below(len(all))]
 }
+
+// Fraction is one of a pattern; many have long rows of equal bits.
+func (m *Mixer) Fraction() uint64 {
+	f := m.Word()
+	switch m.Below(4) {
+	case 0:
+		f &= math.MaxUint64 << uint(m.Below(65))
+	case 1:
+		f |= math.MaxUint64 >> uint(m.Below(65))
+	}
+	return f >> 12
+}

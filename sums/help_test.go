@@ -164,18 +164,6 @@ func (m *mixer) sig(length int) wide.W {
 	return wide.W{w[0] | top[0], w[1] | top[1]}
 }
 
-// fraction is one of a pattern; many have long rows of equal bits.
-func (m *mixer) fraction() uint64 {
-	f := m.Word()
-	switch m.Below(4) {
-	case 0:
-		f &= full << uint(m.Below(65))
-	case 1:
-		f |= full >> uint(m.Below(65))
-	}
-	return f >> 12
-}
-
 // pair are two finite patterns of any signs, often of exponents near each other.
 func (m *mixer) pair() (uint64, uint64) {
 	e := m.Below(2047)
@@ -183,7 +171,7 @@ func (m *mixer) pair() (uint64, uint64) {
 	if m.Below(8) > 0 {
 		d = min(max(e+m.Below(141)-70, 0), 2046)
 	}
-	a := uint64(e)<<52 + m.fraction() + m.Word()&minus
-	b := uint64(d)<<52 + m.fraction() + m.Word()&minus
+	a := uint64(e)<<52 + m.Fraction() + m.Word()&minus
+	b := uint64(d)<<52 + m.Fraction() + m.Word()&minus
 	return a, b
 }
